@@ -855,28 +855,35 @@ func slicesOf(models []impl.Model, lists [][]int) [][]int {
 	return all
 }
 
+// checkNew overwrites all lists of results, up to their capacities, and checks that this changes no other one of them.
+func checkNew(t *testing.T, m impl.Model, models []impl.Model, lists [][]int, want [][]int) {
+	t.Helper()
+	kept := slicesOf(models, lists)
+	for i := range kept {
+		for j := range kept[i][:cap(kept[i])] {
+			kept[i][:cap(kept[i])][j] = -1
+		}
+		for j := i + 1; j < len(kept); j++ {
+			if !slices.Equal(kept[j], want[j]) {
+				t.Fatalf("two lists of the results for %v share memory", m)
+			}
+		}
+	}
+	for _, result := range models {
+		for agent := range result.Blocks[:cap(result.Blocks)] {
+			result.Blocks[:cap(result.Blocks)][agent] = nil
+		}
+	}
+}
+
 func TestModelResultsAreNew(t *testing.T) {
 	for _, m := range append(smallModels(), randomModels()...) {
 		list := numbers(0, len(m.Facts)-1)
 		before, listBefore := copyModel(m), slices.Clone(list)
 		keptModels, keptLists := callAllOn(m, m, list)
 		wantModels, wantLists := callAllOn(before, before, listBefore)
-		kept, want := slicesOf(keptModels, keptLists), slicesOf(wantModels, wantLists)
-		for i := range kept {
-			for j := range kept[i][:cap(kept[i])] {
-				kept[i][:cap(kept[i])][j] = -1
-			}
-			for j := i + 1; j < len(kept); j++ {
-				if !slices.Equal(kept[j], want[j]) {
-					t.Fatalf("two lists of the results for %v share memory", before)
-				}
-			}
-		}
-		for _, result := range keptModels {
-			for agent := range result.Blocks[:cap(result.Blocks)] {
-				result.Blocks[:cap(result.Blocks)][agent] = nil
-			}
-		}
+		want := slicesOf(wantModels, wantLists)
+		checkNew(t, before, keptModels, keptLists, want)
 		if !equalModels(m, before) || !slices.Equal(list, listBefore) {
 			t.Fatalf("a result shares memory with the argument %v", before)
 		}

@@ -218,28 +218,39 @@ func TestTruthOfAnnouncementsThatLeaveNoWorld(t *testing.T) {
 	}
 }
 
-func TestTruthOfAllShortFormulas(t *testing.T) {
-	models := append(smallModels(), twoChildren())
-	for i, f := range formulasUpTo(4) {
+// someCheck compares what the functions of a layer say of a valid model and a valid formula with a second way.
+type someCheck func(t *testing.T, m impl.Model, f []impl.Node)
+
+// checkSome calls a check with each formula and some models.
+func checkSome(t *testing.T, check someCheck, formulas [][]impl.Node, models []impl.Model) {
+	t.Helper()
+	for i, f := range formulas {
 		for k := range 12 {
-			checkTruth(t, models[(i*7919+k*104729)%len(models)], f)
-		}
-	}
-	short := formulasUpTo(2)
-	for _, m := range models {
-		for _, f := range short {
-			checkTruth(t, m, f)
+			check(t, models[(i*7919+k*104729)%len(models)], f)
 		}
 	}
 }
 
-func TestTruthOfLongFormulas(t *testing.T) {
-	models := append(randomModels(), longModel())
-	for i, f := range randomFormulas() {
-		for k := range 12 {
-			checkTruth(t, models[(i*7919+k*104729)%len(models)], f)
+// checkShort calls a check with formulas of up to a number of nodes: with some small models, and if they have at most 2
+// nodes with all of them.
+func checkShort(t *testing.T, check someCheck, nodes int) {
+	t.Helper()
+	models := append(smallModels(), twoChildren())
+	checkSome(t, check, formulasUpTo(nodes), models)
+	short := formulasUpTo(2)
+	for _, m := range models {
+		for _, f := range short {
+			check(t, m, f)
 		}
 	}
+}
+
+func TestTruthOfAllShortFormulas(t *testing.T) {
+	checkShort(t, checkTruth, 4)
+}
+
+func TestTruthOfLongFormulas(t *testing.T) {
+	checkSome(t, checkTruth, randomFormulas(), append(randomModels(), longModel()))
 }
 
 // nestedFormula returns a formula of depth up to a number in which announcements and knowledge alternate, with facts
@@ -326,43 +337,59 @@ func TestTruthOfDoesNotDependOnTheActualWorld(t *testing.T) {
 	}
 }
 
-func TestTruthOfWhatIsNotValid(t *testing.T) {
-	formulas := []string{"a", "T", "-T", "K0a", "Ea", "CT", "!-aT"}
+// noCheck checks that every function of a layer fails for a model and a formula.
+type noCheck func(t *testing.T, label string, m impl.Model, f []impl.Node)
+
+// checkWhatIsNotValid calls a check with models and formulas of which at least one is not valid.
+func checkWhatIsNotValid(t *testing.T, check noCheck) {
+	t.Helper()
 	for name, m := range invalidModels() {
-		for _, text := range formulas {
-			checkNoTruth(t, name+" and "+text, m, read(t, text))
+		for _, text := range []string{"a", "-a", "T", "-T", "K0a", "K0T", "Ea", "CT", "!-aT", "!-Ta"} {
+			check(t, name+" and "+text, m, read(t, text))
 		}
 	}
 	for name, f := range invalidLists() {
 		for _, m := range []impl.Model{twoChildren(), longModel(), manyWorlds(1, 1), manyWorlds(16, 3)} {
-			checkNoTruth(t, name, m, f)
+			check(t, name, m, f)
 		}
 		for other, m := range invalidModels() {
-			checkNoTruth(t, name+" and "+other, m, f)
+			check(t, name+" and "+other, m, f)
 		}
 	}
 }
 
-func TestTruthOfAgentsThatAreMissing(t *testing.T) {
+// checkAgentsThatAreMissing calls a check with models and formulas that name agents, or another one if the model does
+// not have the agent.
+func checkAgentsThatAreMissing(t *testing.T, check someCheck, missing noCheck) {
+	t.Helper()
 	for agents := 1; agents <= 3; agents++ {
 		for worlds := 1; worlds <= 16; worlds++ {
 			m := manyWorlds(worlds, agents)
 			for agent := range 3 {
-				name := plainFormat(agent)
-				for _, text := range []string{"K0a", "W0a", "-K0T", "&aK0b", "&W0ba", "EK0a", "CW0a", "!K0ab", "!aW0b", "!-TK0a", "!!-TK0-TT", "&TK0-!TW0c"} {
-					text = strings.ReplaceAll(text, "0", name)
+				for _, text := range []string{"K0a", "K0T", "W0a", "-K0T", "-K0a", "&aK0b", "-&aK0b", "&W0ba", "EK0a", "E-K0a", "CW0a", "!K0ab", "!aW0b", "!-TK0a", "!!-TK0-TT", "&TK0-!TW0c"} {
+					f := written(t, text, "", "", agent)
 					if agent >= agents {
-						checkNoTruth(t, text, m, read(t, text))
+						missing(t, plainText(f, len(f)-1), m, f)
 						continue
 					}
-					checkTruth(t, m, read(t, text))
-					if _, ok := impl.TruthOf(m, read(t, text)); !ok {
-						t.Errorf("TruthOf %s fails for %d agents", text, agents)
-					}
+					check(t, m, f)
 				}
 			}
 		}
 	}
+}
+
+func TestTruthOfWhatIsNotValid(t *testing.T) {
+	checkWhatIsNotValid(t, checkNoTruth)
+}
+
+func TestTruthOfAgentsThatAreMissing(t *testing.T) {
+	checkAgentsThatAreMissing(t, func(t *testing.T, m impl.Model, f []impl.Node) {
+		checkTruth(t, m, f)
+		if _, ok := impl.TruthOf(m, f); !ok {
+			t.Errorf("TruthOf %s fails for %d agents", plainText(f, len(f)-1), len(m.Blocks))
+		}
+	}, checkNoTruth)
 }
 
 func TestAreEquivalentIn(t *testing.T) {
@@ -603,7 +630,8 @@ func callAllWith(m impl.Model, f []impl.Node, g []impl.Node) ([]bool, []int) {
 	return truth, impl.WorldsWhere(m, f)
 }
 
-func TestTruthArgumentsAreNotModified(t *testing.T) {
+// forArguments calls a function with many models and formulas, valid or not.
+func forArguments(call func(m impl.Model, f []impl.Node, g []impl.Node)) {
 	models := append(smallModels(), randomModels()...)
 	for _, m := range invalidModels() {
 		models = append(models, m)
@@ -613,14 +641,19 @@ func TestTruthArgumentsAreNotModified(t *testing.T) {
 		formulas = append(formulas, f)
 	}
 	for i := range 4000 {
-		m, f, g := models[i%len(models)], formulas[i*7%len(formulas)], formulas[i*31%len(formulas)]
+		call(models[i%len(models)], formulas[i*7%len(formulas)], formulas[i*31%len(formulas)])
+	}
+}
+
+func TestTruthArgumentsAreNotModified(t *testing.T) {
+	forArguments(func(m impl.Model, f []impl.Node, g []impl.Node) {
 		model, first, second := roomyModel(m), roomyFormula(f), roomyFormula(g)
 		callAllWith(model, first, second)
 		callAllWith(model, first, first)
 		if !isRoomyModel(model, m) || !isRoomyFormula(first, f) || !isRoomyFormula(second, g) {
 			t.Errorf("an argument or the room behind it was changed: %d worlds, %d nodes", len(m.Facts), len(f))
 		}
-	}
+	})
 }
 
 func TestTruthResultsAreNew(t *testing.T) {
