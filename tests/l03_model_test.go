@@ -304,18 +304,25 @@ func someNumbers() []int {
 	return append(numbers(-3, 18), 31, 32, 63, 64, 65, 255, 256, math.MinInt, math.MinInt+1, math.MaxInt-1, math.MaxInt)
 }
 
+// checkResult compares the result of a function with what it should be, or with a failure and the zero value.
+func checkResult[T any](t *testing.T, label string, got T, ok bool, want T, wantOk bool, equal func(T, T) bool, valid func(T) bool) {
+	t.Helper()
+	if !wantOk {
+		want = *new(T)
+	}
+	if ok != wantOk || !equal(got, want) {
+		t.Errorf("%s = %v, %v, want %v, %v", label, got, ok, want, wantOk)
+	}
+	if wantOk && !valid(got) {
+		t.Errorf("%s = %v, which is not valid", label, got)
+	}
+}
+
 // checkModel compares the result of a function with a model, or with a failure if there is none.
 func checkModel(t *testing.T, label string, got impl.Model, ok bool, want impl.Model, wantOk bool) {
 	t.Helper()
-	if !wantOk {
-		want = impl.Model{}
-	}
-	if ok != wantOk || !equalModels(got, want) {
-		t.Errorf("%s = %v, %v, want %v, %v", label, got, ok, want, wantOk)
-	}
-	if wantOk && (!plainOk(got) || !impl.ModelOk(got)) {
-		t.Errorf("%s = %v, which is not valid", label, got)
-	}
+	valid := func(m impl.Model) bool { return plainOk(m) && impl.ModelOk(m) }
+	checkResult(t, label, got, ok, want, wantOk, equalModels, valid)
 }
 
 func TestModelOk(t *testing.T) {
@@ -337,36 +344,39 @@ func TestModelOk(t *testing.T) {
 	}
 }
 
-func TestModelOkOfAllSizes(t *testing.T) {
-	for worlds := range 40 {
+// checkAllBlocks checks which blocks are accepted for what there are at most so many of, with all sizes and short rows.
+func checkAllBlocks(t *testing.T, most int, accepts func(n int, blocks [][]int) bool) {
+	t.Helper()
+	for n := range 40 {
 		for agents := range 8 {
-			want := 1 <= worlds && worlds <= 16 && 1 <= agents && agents <= 3
-			if got := impl.ModelOk(manyWorlds(worlds, agents)); got != want {
-				t.Errorf("ModelOk of %d worlds and %d agents = %v", worlds, agents, got)
+			want := 1 <= n && n <= most && 1 <= agents && agents <= 3
+			if got := accepts(n, manyWorlds(n, agents).Blocks); got != want {
+				t.Errorf("%d blocks of %d agents are accepted: %v", n, agents, got)
 			}
 			for agent := range agents {
 				for length := range 40 {
-					m := manyWorlds(worlds, agents)
-					m.Blocks[agent] = make([]int, length)
-					if got := impl.ModelOk(m); got != (want && length == worlds) {
-						t.Errorf("ModelOk of %d worlds and a row of %d = %v", worlds, length, got)
+					blocks := manyWorlds(n, agents).Blocks
+					blocks[agent] = make([]int, length)
+					if got := accepts(n, blocks); got != (want && length == n) {
+						t.Errorf("a row of %d in place of %d is accepted: %v", length, n, got)
 					}
 				}
 			}
 		}
 	}
-}
-
-func TestModelOkOfAllShortRows(t *testing.T) {
-	for n := 1; n <= 5; n++ {
+	for n := 1; n <= min(most, 5); n++ {
 		for _, list := range allLists(numbers(-1, n), n) {
-			m := manyWorlds(n, 1)
-			m.Blocks[0] = list
-			if got := impl.ModelOk(m); got != plainRow(list) {
-				t.Errorf("ModelOk of the row %v = %v", list, got)
+			if got := accepts(n, [][]int{list}); got != plainRow(list) {
+				t.Errorf("the row %v is accepted: %v", list, got)
 			}
 		}
 	}
+}
+
+func TestModelOkOfAllBlocks(t *testing.T) {
+	checkAllBlocks(t, 16, func(n int, blocks [][]int) bool {
+		return impl.ModelOk(impl.Model{Facts: make([]int, n), Blocks: blocks})
+	})
 }
 
 // fieldsOf returns the addresses of all numbers of a model.
