@@ -506,25 +506,33 @@ func TestParseFormulaRejectsOtherTexts(t *testing.T) {
 	}
 }
 
-// textsOf returns the texts of all formulas with a number of nodes, made by the rules of the texts alone.
-func textsOf(n int) []string {
+// textsFrom returns the texts of all formulas with a number of nodes that begin with some texts: those of facts and OpTrue,
+// of operations on one formula and of operations on two. They are made by the rules of the texts alone.
+func textsFrom(leaves string, heads string, joints string, n int) []string {
 	if n == 1 {
-		return []string{"a", "b", "c", "d", "T"}
+		return strings.Fields(leaves)
 	}
 	var all []string
-	for _, text := range textsOf(n - 1) {
-		for _, head := range []string{"-", "E", "C", "K0", "K1", "K2", "W0", "W1", "W2"} {
+	for _, text := range textsFrom(leaves, heads, joints, n-1) {
+		for _, head := range strings.Fields(heads) {
 			all = append(all, head+text)
 		}
 	}
 	for k := 1; k < n-1; k++ {
-		for _, first := range textsOf(k) {
-			for _, second := range textsOf(n - 1 - k) {
-				all = append(all, "&"+first+second, "!"+first+second)
+		for _, first := range textsFrom(leaves, heads, joints, k) {
+			for _, second := range textsFrom(leaves, heads, joints, n-1-k) {
+				for _, joint := range strings.Fields(joints) {
+					all = append(all, joint+first+second)
+				}
 			}
 		}
 	}
 	return all
+}
+
+// textsOf returns the texts of all formulas with a number of nodes.
+func textsOf(n int) []string {
+	return textsFrom("a b c d T", "- E C K0 K1 K2 W0 W1 W2", "& !", n)
 }
 
 func TestParseFormulaOfAllShortTexts(t *testing.T) {
@@ -837,25 +845,31 @@ func TestFormulaArgumentsAreNotModified(t *testing.T) {
 	}
 }
 
+// checkNewFormulas checks that the formulas that a call returns share no memory with its argument or with one another.
+func checkNewFormulas(t *testing.T, f []impl.Node, call func(f []impl.Node) [][]impl.Node) {
+	t.Helper()
+	f = f[:len(f):len(f)]
+	before := slices.Clone(f)
+	kept := call(f)
+	want := call(before)
+	for _, result := range call(f) {
+		result = result[:cap(result)]
+		for i := range result {
+			result[i] = impl.Node{Op: 99, N: 99, A: 99, B: 99}
+		}
+	}
+	if !slices.Equal(f, before) {
+		t.Fatalf("a result shares memory with the argument %v", before)
+	}
+	for i, result := range kept {
+		if !slices.Equal(result, want[i]) {
+			t.Fatalf("results share memory: %v is %v", want[i], result)
+		}
+	}
+}
+
 func TestFormulaResultsAreNew(t *testing.T) {
 	for _, f := range append(formulasUpTo(2), randomFormulas()...) {
-		f = f[:len(f):len(f)]
-		before := slices.Clone(f)
-		kept := callAllOf(f, f)
-		want := callAllOf(before, before)
-		for _, result := range callAllOf(f, f) {
-			result = result[:cap(result)]
-			for i := range result {
-				result[i] = impl.Node{Op: 99, N: 99, A: 99, B: 99}
-			}
-		}
-		if !slices.Equal(f, before) {
-			t.Fatalf("a result shares memory with the argument %v", before)
-		}
-		for i, result := range kept {
-			if !slices.Equal(result, want[i]) {
-				t.Fatalf("results share memory: %v is %v", want[i], result)
-			}
-		}
+		checkNewFormulas(t, f, func(f []impl.Node) [][]impl.Node { return callAllOf(f, f) })
 	}
 }
