@@ -143,11 +143,11 @@ func equalModels(m impl.Model, n impl.Model) bool {
 	return true
 }
 
-// allLists returns all lists of n of some numbers.
-func allLists(from []int, n int) [][]int {
-	all := [][]int{nil}
+// allLists returns all lists of n of some elements.
+func allLists[T any](from []T, n int) [][]T {
+	all := [][]T{nil}
 	for range n {
-		var longer [][]int
+		var longer [][]T
 		for _, list := range all {
 			for _, x := range from {
 				longer = append(longer, append(slices.Clone(list), x))
@@ -799,9 +799,21 @@ func callAllOn(m impl.Model, n impl.Model, list []int) ([]impl.Model, [][]int) {
 
 const marked = 7777
 
-// roomyList returns a copy of a list with marks behind its end.
+// withRoom returns a copy of a list with marks behind its end.
+func withRoom[T any](list []T, mark T) []T {
+	return append(slices.Clone(list), mark, mark, mark)[:len(list)]
+}
+
+// hasRoom reports whether a list and the marks behind it are still as withRoom has made them.
+func hasRoom[T comparable](list []T, want []T, mark T) bool {
+	n := len(want)
+	whole := list[:n+3]
+	return slices.Equal(whole[:n], want) && slices.Equal(whole[n:], []T{mark, mark, mark})
+}
+
+// roomyList returns a copy of a list of numbers with marks behind its end.
 func roomyList(list []int) []int {
-	return append(slices.Clone(list), marked, marked, marked)[:len(list)]
+	return withRoom(list, marked)
 }
 
 // roomyModel returns a copy of a model with marks behind the ends of all lists.
@@ -817,9 +829,7 @@ func roomyModel(m impl.Model) impl.Model {
 
 // isRoomyList reports whether a list and the marks behind it are still as roomyList has made them.
 func isRoomyList(list []int, want []int) bool {
-	n := len(want)
-	whole := list[:n+3]
-	return slices.Equal(whole[:n], want) && slices.Equal(whole[n:], []int{marked, marked, marked})
+	return hasRoom(list, want, marked)
 }
 
 // isRoomyModel reports the same of a model and roomyModel.
