@@ -408,13 +408,12 @@ func TestProductOfOtherAgents(t *testing.T) {
 	})
 }
 
-func TestProductsEndTheirGoroutines(t *testing.T) {
+// checkGoroutinesEnd checks that no goroutines are left some time after many calls.
+func checkGoroutinesEnd(t *testing.T, call func()) {
+	t.Helper()
 	before := runtime.NumGoroutine()
 	for range 50 {
-		impl.ProductOf(manyWorlds(16, 2), manyEvents(4, 2, read(t, "T")))
-		impl.CountPairs(manyWorlds(16, 2), manyEvents(2, 2, read(t, "T")))
-		impl.ProductOf(manyWorlds(4, 1), manyEvents(4, 1, read(t, "T")))
-		impl.ProductOf(manyWorlds(4, 1), manyEvents(4, 1, read(t, "-T")))
+		call()
 	}
 	for range 1000 {
 		if runtime.NumGoroutine() <= before {
@@ -423,6 +422,15 @@ func TestProductsEndTheirGoroutines(t *testing.T) {
 		time.Sleep(time.Millisecond)
 	}
 	t.Errorf("%d goroutines are left", runtime.NumGoroutine()-before)
+}
+
+func TestProductsEndTheirGoroutines(t *testing.T) {
+	checkGoroutinesEnd(t, func() {
+		impl.ProductOf(manyWorlds(16, 2), manyEvents(4, 2, read(t, "T")))
+		impl.CountPairs(manyWorlds(16, 2), manyEvents(2, 2, read(t, "T")))
+		impl.ProductOf(manyWorlds(4, 1), manyEvents(4, 1, read(t, "T")))
+		impl.ProductOf(manyWorlds(4, 1), manyEvents(4, 1, read(t, "-T")))
+	})
 }
 
 // someAgents returns the numbers of agents and the agents with which the functions are tried.
